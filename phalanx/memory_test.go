@@ -1,0 +1,184 @@
+package phalanx
+
+import (
+	"math"
+	"runtime"
+	"slices"
+	"strings"
+	"sync"
+	"testing"
+	"time"
+
+	"phalanx/api"
+)
+
+func sameLists(a, b [][]int) bool {
+	return slices.EqualFunc(a, b, func(x, y []int) bool { return slices.Equal(x, y) })
+}
+
+func copied(lists [][]int) [][]int {
+	var out [][]int
+	for _, list := range lists {
+		out = append(out, slices.Clone(list))
+	}
+	return out
+}
+
+// whole is a list with its spare room.
+func whole[T any](list []T) []T { return list[:cap(list)] }
+
+// roomy is the formula of example 2, with room behind each list that others may be using.
+func roomy() (api.Formula, [][]int) {
+	rooms := [][]int{{1, -2, 77, 77, 77}, {2, 88, 88}, {1, 2, 99}, {66}, {55}}
+	clauses := [][]int{rooms[0][:2], rooms[1][:1], rooms[2][:2], rooms[3], rooms[4]}
+	return api.Formula{Vars: 2, Clauses: clauses[:3]}, rooms
+}
+
+func TestP2NothingHandedInIsWritten(t *testing.T) {
+	f, rooms := roomy()
+	before := copied(rooms)
+	givenRoom, proofRoom := []int{1, 2, 44}, [][]int{{1, 33}, {}, {22}}
+	for range 2 {
+		Fault(f)
+		Scores(f)
+		Order(f)
+		Shares(f, 100)
+		Propagate(f, givenRoom[:2])
+		Check(f, [][]int{proofRoom[0][:1], proofRoom[1]})
+		Solve(f)
+		Cubes(f, 2)
+		Fleet(f, 2, 2)
+	}
+	if !sameLists(rooms, before) || !sameLists(f.Clauses[:5], [][]int{{1, -2}, {2}, {1, 2}, {66}, {55}}) {
+		t.Errorf("P2: the formula handed in was written into: %v", rooms)
+	}
+	if !slices.Equal(givenRoom, []int{1, 2, 44}) || !sameLists(proofRoom, [][]int{{1, 33}, {}, {22}}) {
+		t.Errorf("P2: other lists handed in were written into: %v, %v", givenRoom, proofRoom)
+	}
+}
+
+func TestP2AnswersAreNewMemory(t *testing.T) {
+	f, _ := roomy()
+	for range 3 {
+		scores, _ := Scores(f)
+		order, _ := Order(f)
+		shares, _ := Shares(f, 9)
+		if !slices.Equal(scores, []float64{0.5, 0, 0.75, 0.25}) || !slices.Equal(order, []int{2, 1}) || !slices.Equal(shares, []int{3, 6}) {
+			t.Fatalf("P2: asked again: %v, %v, %v", scores, order, shares)
+		}
+		for i := range whole(scores) {
+			whole(scores)[i] = math.NaN()
+		}
+		for _, list := range [][]int{order, shares} {
+			for i := range whole(list) {
+				whole(list)[i] = 777
+			}
+		}
+	}
+}
+
+func TestP2ParsedClausesShareNoRoom(t *testing.T) {
+	var text strings.Builder
+	text.WriteString("p cnf 20 60\n")
+	// Long clauses with short ones behind them, which would find room in what the long ones leave.
+	length := func(i int) int { return 8 * i % 21 }
+	for i := range 60 {
+		text.WriteString(strings.Repeat("7 ", length(i)) + "0\n")
+	}
+	for range 2 {
+		f, e, _ := Parse(text.String())
+		if e != api.OK || len(f.Clauses) != 60 {
+			t.Fatalf("P3: Parse = %v, %d", f, e)
+		}
+		for i, clause := range f.Clauses {
+			for _, literal := range clause {
+				if literal != 7 || len(clause) != length(i) {
+					t.Fatalf("P2: clause %d is %v, after those ahead of it were written over", i, clause)
+				}
+			}
+			for j := range whole(clause) {
+				whole(clause)[j] = 1000 + i
+			}
+		}
+		for i, clause := range f.Clauses {
+			for _, n := range whole(clause) {
+				if n != 1000+i {
+					t.Fatalf("P2: the room of clause %d was written over by that of another", i)
+				}
+			}
+		}
+	}
+}
+
+func TestP2SameAnswersFromManyAtOnce(t *testing.T) {
+	f, _ := roomy()
+	wrong := make([]bool, 16)
+	var group sync.WaitGroup
+	for i := range wrong {
+		group.Add(1)
+		go func() {
+			defer group.Done()
+			g, _, _ := Parse("p cnf 2 3\n1 -2 0 2 0 1 2 0")
+			scores, _ := Scores(f)
+			order, _ := Order(f)
+			shares, _ := Shares(f, 9)
+			wrong[i] = !sameLists(g.Clauses, f.Clauses) || !slices.Equal(scores, []float64{0.5, 0, 0.75, 0.25}) || !slices.Equal(order, []int{2, 1}) || !slices.Equal(shares, []int{3, 6})
+		}()
+	}
+	group.Wait()
+	if slices.Contains(wrong, true) {
+		t.Errorf("P2: of many that ask at once some are answered otherwise")
+	}
+}
+
+func TestP2NothingGoesOnRunning(t *testing.T) {
+	f, _ := roomy()
+	before := runtime.NumGoroutine()
+	for range 20 {
+		Parse("p cnf 2 3\n1 -2 0 2 0 1 2 0")
+		Fault(f)
+		allCalls(f)
+		Propagate(f, []int{1})
+		Check(f, [][]int{{1}, {}})
+		Cubes(f, 2)
+		Fleet(f, 2, api.MaxWorkers)
+	}
+	// One that has told that it is done may need a moment to be gone.
+	for tries := 0; runtime.NumGoroutine() > before && tries < 200; tries++ {
+		time.Sleep(10 * time.Millisecond)
+	}
+	if now := runtime.NumGoroutine(); now > before {
+		t.Errorf("P2: %d goroutines ran ahead of the calls, %d behind them", before, now)
+	}
+}
+
+func TestP1EveryCallEnds(t *testing.T) {
+	numbers := []int{math.MinInt, math.MinInt + 1, -21, -1, 0, 1, 20, 21, math.MaxInt}
+	for _, vars := range numbers {
+		for _, n := range numbers {
+			for _, clauses := range [][][]int{nil, {nil}, {{n}}, {{}, {1, n}}, make([][]int, 100000), {make([]int, 100000)}} {
+				f := api.Formula{Vars: vars, Clauses: clauses}
+				Fault(f)
+				allCalls(f)
+				if shares, e := Shares(f, n); e != api.OK && len(shares) != 0 {
+					t.Errorf("P1: an error and %v", shares)
+				}
+				Propagate(f, []int{n})
+				Check(f, [][]int{{n}, nil})
+				Cubes(f, n)
+				Fleet(f, n, n)
+			}
+		}
+	}
+}
+
+func TestP1EveryTextEnds(t *testing.T) {
+	for _, piece := range []string{"c", "\n", " ", "p ", "0 ", "1 ", "-", "9", "\xff", "c\n", "\x00"} {
+		for _, begin := range []string{"", "p cnf 1 1\n", "p cnf 20 200\n", "p cnf "} {
+			text := begin + strings.Repeat(piece, 1<<18)
+			if f, e, at := Parse(text); e == api.OK || at < 1 || f.Vars != 0 || len(f.Clauses) != 0 {
+				t.Errorf("P1: Parse of %q and many %q = %v, %d, %d", begin, piece, f, e, at)
+			}
+		}
+	}
+}

@@ -1,0 +1,74 @@
+// Package phalanx: whether formulas can be true: see DOC.md.
+package phalanx
+
+import (
+	"phalanx/api"
+	"phalanx/faults"
+	"phalanx/reading"
+	"phalanx/weights"
+)
+
+// Parse reads a formula (P3).
+func Parse(text string) (api.Formula, api.Errno, int) { return reading.Formula(text) }
+
+// Fault tells the fault of a formula, and which clause has it (P4).
+func Fault(f api.Formula) (api.Errno, int) { return faults.Of(f) }
+
+// Scores tells how much each literal weighs (P5).
+func Scores(f api.Formula) ([]float64, api.Errno) {
+	if e, _ := faults.Of(f); e != api.OK {
+		return nil, e
+	}
+	return weights.OfLiterals(f), api.OK
+}
+
+// Order tells the variables, the heaviest first (P5).
+func Order(f api.Formula) ([]int, api.Errno) {
+	if e, _ := faults.Of(f); e != api.OK {
+		return nil, e
+	}
+	return weights.Order(f), api.OK
+}
+
+// Shares parts a number by the variables' weights (P5).
+func Shares(f api.Formula, total int) ([]int, api.Errno) {
+	if e, _ := faults.Of(f); e != api.OK {
+		return nil, e
+	}
+	if total < 0 || total > api.MaxTotal {
+		return nil, api.ErrArg
+	}
+	return weights.Shares(f, total), api.OK
+}
+
+// The calls below do not do their work yet: they tell the fault of a formula (P4), and nothing else.
+
+// Propagate tells all that follows at once from some literals (P6).
+func Propagate(f api.Formula, given []int) ([]int, bool, api.Errno) {
+	e, _ := faults.Of(f)
+	return nil, false, e
+}
+
+// Check tells whether a proof is one (P7).
+func Check(f api.Formula, proof [][]int) (int, api.Errno) {
+	e, _ := faults.Of(f)
+	return 0, e
+}
+
+// Solve finds an assignment, or a proof that there is none (P8).
+func Solve(f api.Formula) (api.Answer, api.Errno) {
+	e, _ := faults.Of(f)
+	return api.Answer{}, e
+}
+
+// Cubes parts the assignments by the heaviest variables (P9).
+func Cubes(f api.Formula, k int) ([][]int, api.Errno) {
+	e, _ := faults.Of(f)
+	return nil, e
+}
+
+// Fleet finds what Solve finds, by several workers (P10).
+func Fleet(f api.Formula, k int, workers int) (api.Answer, api.Errno) {
+	e, _ := faults.Of(f)
+	return api.Answer{}, e
+}
