@@ -1,4 +1,4 @@
-// Package faults: what is wrong with a formula.
+// Package faults: what is wrong with a formula, a clause or literals.
 package faults
 
 import "phalanx/api"
@@ -12,18 +12,24 @@ func Of(f api.Formula) (api.Errno, int) {
 		return api.ErrClauses, 0
 	}
 	for at, clause := range f.Clauses {
-		if e := ofClause(clause, f.Vars); e != api.OK {
+		if e := OfClause(clause, f.Vars); e != api.OK {
 			return e, at
 		}
 	}
 	return api.OK, 0
 }
 
-func ofClause(clause []int, vars int) api.Errno {
+// OfClause tells what is wrong with a clause, or with a step of a proof.
+func OfClause(clause []int, vars int) api.Errno {
 	if len(clause) > api.MaxLength {
 		return api.ErrLong
 	}
-	for _, literal := range clause {
+	return OfLiterals(clause, vars)
+}
+
+// OfLiterals tells whether one in a list, however long, is no literal.
+func OfLiterals(list []int, vars int) api.Errno {
+	for _, literal := range list {
 		// Held against both ends, since the least int has no opposite.
 		if literal == 0 || literal > vars || literal < -vars {
 			return api.ErrLiteral

@@ -63,16 +63,21 @@ func TestP2AnswersAreNewMemory(t *testing.T) {
 		scores, _ := Scores(f)
 		order, _ := Order(f)
 		shares, _ := Shares(f, 9)
-		if !slices.Equal(scores, []float64{0.5, 0, 0.75, 0.25}) || !slices.Equal(order, []int{2, 1}) || !slices.Equal(shares, []int{3, 6}) {
-			t.Fatalf("P2: asked again: %v, %v, %v", scores, order, shares)
+		given := []int{2, 2}
+		follow, _, _ := Propagate(f, given)
+		if !slices.Equal(scores, []float64{0.5, 0, 0.75, 0.25}) || !slices.Equal(order, []int{2, 1}) || !slices.Equal(shares, []int{3, 6}) || !slices.Equal(follow, []int{1, 2}) {
+			t.Fatalf("P2: asked again: %v, %v, %v, %v", scores, order, shares, follow)
 		}
 		for i := range whole(scores) {
 			whole(scores)[i] = math.NaN()
 		}
-		for _, list := range [][]int{order, shares} {
+		for _, list := range [][]int{order, shares, follow} {
 			for i := range whole(list) {
 				whole(list)[i] = 777
 			}
+		}
+		if !slices.Equal(given, []int{2, 2}) {
+			t.Fatalf("P2: an answer stands in what was given")
 		}
 	}
 }
@@ -122,7 +127,9 @@ func TestP2SameAnswersFromManyAtOnce(t *testing.T) {
 			scores, _ := Scores(f)
 			order, _ := Order(f)
 			shares, _ := Shares(f, 9)
-			wrong[i] = !sameLists(g.Clauses, f.Clauses) || !slices.Equal(scores, []float64{0.5, 0, 0.75, 0.25}) || !slices.Equal(order, []int{2, 1}) || !slices.Equal(shares, []int{3, 6})
+			follow, conflict, _ := Propagate(f, []int{2})
+			steps, e := Check(f, [][]int{{1}, {2}, {-1}})
+			wrong[i] = !slices.Equal(follow, []int{1, 2}) || conflict || steps != 2 || e != api.ErrStep || !sameLists(g.Clauses, f.Clauses) || !slices.Equal(scores, []float64{0.5, 0, 0.75, 0.25}) || !slices.Equal(order, []int{2, 1}) || !slices.Equal(shares, []int{3, 6})
 		}()
 	}
 	group.Wait()

@@ -4,6 +4,9 @@ package phalanx
 import (
 	"phalanx/api"
 	"phalanx/faults"
+	"phalanx/follow"
+	"phalanx/literals"
+	"phalanx/proofs"
 	"phalanx/reading"
 	"phalanx/weights"
 )
@@ -41,19 +44,33 @@ func Shares(f api.Formula, total int) ([]int, api.Errno) {
 	return weights.Shares(f, total), api.OK
 }
 
-// The calls below do not do their work yet: they tell the fault of a formula (P4), and nothing else.
-
 // Propagate tells all that follows at once from some literals (P6).
 func Propagate(f api.Formula, given []int) ([]int, bool, api.Errno) {
-	e, _ := faults.Of(f)
-	return nil, false, e
+	if e, _ := faults.Of(f); e != api.OK {
+		return nil, false, e
+	}
+	if e := faults.OfLiterals(given, f.Vars); e != api.OK {
+		return nil, false, e
+	}
+	follows, refuted := literals.Of(given), false
+	unit := func(literal, _ literals.Set) { follows |= literal }
+	conflict := func(literals.Set) { refuted = true }
+	follow.Of(f).From(follows, unit, conflict)
+	if refuted {
+		return nil, true, api.OK
+	}
+	return follows.List(), false, api.OK
 }
 
 // Check tells whether a proof is one (P7).
 func Check(f api.Formula, proof [][]int) (int, api.Errno) {
-	e, _ := faults.Of(f)
-	return 0, e
+	if e, _ := faults.Of(f); e != api.OK {
+		return 0, e
+	}
+	return proofs.Check(f, proof)
 }
+
+// The calls below do not do their work yet: they tell the fault of a formula (P4), and nothing else.
 
 // Solve finds an assignment, or a proof that there is none (P8).
 func Solve(f api.Formula) (api.Answer, api.Errno) {

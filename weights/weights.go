@@ -4,6 +4,7 @@ package weights
 import (
 	"phalanx/api"
 	"phalanx/keep"
+	"phalanx/literals"
 )
 
 // OfLiterals: for each variable v in turn the weight of v, then that of -v.
@@ -12,26 +13,18 @@ func OfLiterals(f api.Formula) []float64 {
 	for _, clause := range f.Clauses {
 		each := 1 / float64(int(1)<<len(clause))
 		for _, literal := range clause {
-			sums[place(literal)] += each
+			sums[literals.Place(literal)] += each
 		}
 	}
 	return sums
 }
 
-// place tells where a literal's weight stands among those of all literals.
-func place(literal int) int {
-	if literal < 0 {
-		return 2*(-literal-1) + 1
-	}
-	return 2 * (literal - 1)
-}
-
 // ofVariables: for each variable in turn the weight of both its literals.
 func ofVariables(f api.Formula) []float64 {
-	literals := OfLiterals(f)
+	each := OfLiterals(f)
 	sums := make([]float64, f.Vars)
 	for i := range sums {
-		sums[i] = literals[2*i] + literals[2*i+1]
+		sums[i] = each[2*i] + each[2*i+1]
 	}
 	return sums
 }
