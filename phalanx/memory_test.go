@@ -115,8 +115,45 @@ func TestP2ParsedClausesShareNoRoom(t *testing.T) {
 	}
 }
 
+// holdRooms writes over each list, and what is behind it; none may be seen in another.
+func holdRooms(t *testing.T, lists [][]int) {
+	t.Helper()
+	for i, list := range lists {
+		for j := range whole(list) {
+			whole(list)[j] = 1000 + i
+		}
+	}
+	for i, list := range lists {
+		for _, n := range whole(list) {
+			if n != 1000+i {
+				t.Fatalf("P2: the room of list %d was written over by that of another", i)
+			}
+		}
+	}
+}
+
+func TestP2SolvedIsNewMemory(t *testing.T) {
+	for _, f := range []api.Formula{{}, {Vars: 20}, {Vars: 2, Clauses: [][]int{{}}}, circle(20, 8, 1), circle(20, 8, 2), pigeons(5, 4), {Vars: 3, Clauses: [][]int{{-1}, {-2}, {3}}}} {
+		before := copied(f.Clauses)
+		first, _ := Solve(f)
+		want := api.Answer{Sat: first.Sat, Model: slices.Clone(first.Model), Proof: copied(first.Proof)}
+		for range 2 {
+			again, _ := Solve(f)
+			if again.Sat != want.Sat || !slices.Equal(again.Model, want.Model) || !sameLists(again.Proof, want.Proof) {
+				t.Fatalf("P2: Solve(%v) asked again = %v, first %v", f, again, want)
+			}
+			holdRooms(t, append(whole(again.Proof), again.Model))
+		}
+		if !slices.Equal(first.Model, want.Model) || !sameLists(first.Proof, want.Proof) || !sameLists(f.Clauses, before) {
+			t.Fatalf("P2: what Solve(%v) answers shares room with another answer, or with the formula", f)
+		}
+	}
+}
+
 func TestP2SameAnswersFromManyAtOnce(t *testing.T) {
 	f, _ := roomy()
+	hard := circle(20, 8, 1)
+	want, _ := Solve(hard)
 	wrong := make([]bool, 16)
 	var group sync.WaitGroup
 	for i := range wrong {
@@ -129,7 +166,9 @@ func TestP2SameAnswersFromManyAtOnce(t *testing.T) {
 			shares, _ := Shares(f, 9)
 			follow, conflict, _ := Propagate(f, []int{2})
 			steps, e := Check(f, [][]int{{1}, {2}, {-1}})
-			wrong[i] = !slices.Equal(follow, []int{1, 2}) || conflict || steps != 2 || e != api.ErrStep || !sameLists(g.Clauses, f.Clauses) || !slices.Equal(scores, []float64{0.5, 0, 0.75, 0.25}) || !slices.Equal(order, []int{2, 1}) || !slices.Equal(shares, []int{3, 6})
+			solved, _ := Solve(f)
+			proved, _ := Solve(hard)
+			wrong[i] = !slices.Equal(solved.Model, []int{1, 2}) || !sameLists(proved.Proof, want.Proof) || !slices.Equal(follow, []int{1, 2}) || conflict || steps != 2 || e != api.ErrStep || !sameLists(g.Clauses, f.Clauses) || !slices.Equal(scores, []float64{0.5, 0, 0.75, 0.25}) || !slices.Equal(order, []int{2, 1}) || !slices.Equal(shares, []int{3, 6})
 		}()
 	}
 	group.Wait()

@@ -8,6 +8,7 @@ import (
 	"phalanx/literals"
 	"phalanx/proofs"
 	"phalanx/reading"
+	"phalanx/search"
 	"phalanx/weights"
 )
 
@@ -70,13 +71,20 @@ func Check(f api.Formula, proof [][]int) (int, api.Errno) {
 	return proofs.Check(f, proof)
 }
 
-// The calls below do not do their work yet: they tell the fault of a formula (P4), and nothing else.
-
 // Solve finds an assignment, or a proof that there is none (P8).
 func Solve(f api.Formula) (api.Answer, api.Errno) {
-	e, _ := faults.Of(f)
-	return api.Answer{}, e
+	if e, _ := faults.Of(f); e != api.OK {
+		return api.Answer{}, e
+	}
+	var proof [][]int
+	found := func(lemma literals.Set) { proof = append(proof, lemma.List()) }
+	if truth, sat := search.Run(f, found); sat {
+		return api.Answer{Sat: true, Model: truth.List()}, api.OK
+	}
+	return api.Answer{Proof: proof}, api.OK
 }
+
+// The calls below do not do their work yet: they tell the fault of a formula (P4), and nothing else.
 
 // Cubes parts the assignments by the heaviest variables (P9).
 func Cubes(f api.Formula, k int) ([][]int, api.Errno) {
