@@ -179,6 +179,7 @@ func TestP2SameAnswersFromManyAtOnce(t *testing.T) {
 
 func TestP2NothingGoesOnRunning(t *testing.T) {
 	f, _ := roomy()
+	hard := circle(20, 10, 2)
 	before := runtime.NumGoroutine()
 	for range 20 {
 		Parse("p cnf 2 3\n1 -2 0 2 0 1 2 0")
@@ -188,6 +189,7 @@ func TestP2NothingGoesOnRunning(t *testing.T) {
 		Check(f, [][]int{{1}, {}})
 		Cubes(f, 2)
 		Fleet(f, 2, api.MaxWorkers)
+		Fleet(hard, api.MaxSplit, api.MaxWorkers)
 	}
 	// One that has told that it is done may need a moment to be gone.
 	for tries := 0; runtime.NumGoroutine() > before && tries < 200; tries++ {

@@ -6,6 +6,7 @@ import (
 	"phalanx/faults"
 	"phalanx/follow"
 	"phalanx/literals"
+	"phalanx/parts"
 	"phalanx/proofs"
 	"phalanx/reading"
 	"phalanx/search"
@@ -76,24 +77,49 @@ func Solve(f api.Formula) (api.Answer, api.Errno) {
 	if e, _ := faults.Of(f); e != api.OK {
 		return api.Answer{}, e
 	}
-	var proof [][]int
-	found := func(lemma literals.Set) { proof = append(proof, lemma.List()) }
-	if truth, sat := search.Run(f, found); sat {
-		return api.Answer{Sat: true, Model: truth.List()}, api.OK
-	}
-	return api.Answer{Proof: proof}, api.OK
+	return answer(func(found func(lemma literals.Set)) (literals.Set, bool) {
+		return search.Run(f, 0, found)
+	}), api.OK
 }
-
-// The calls below do not do their work yet: they tell the fault of a formula (P4), and nothing else.
 
 // Cubes parts the assignments by the heaviest variables (P9).
 func Cubes(f api.Formula, k int) ([][]int, api.Errno) {
-	e, _ := faults.Of(f)
-	return nil, e
+	if e := faultOfParts(f, k); e != api.OK {
+		return nil, e
+	}
+	return parts.Cubes(f, k), api.OK
 }
 
 // Fleet finds what Solve finds, by several workers (P10).
 func Fleet(f api.Formula, k int, workers int) (api.Answer, api.Errno) {
-	e, _ := faults.Of(f)
-	return api.Answer{}, e
+	if e := faultOfParts(f, k); e != api.OK {
+		return api.Answer{}, e
+	}
+	if workers < 1 || workers > api.MaxWorkers {
+		return api.Answer{}, api.ErrArg
+	}
+	return answer(func(found func(lemma literals.Set)) (literals.Set, bool) {
+		return parts.Run(f, k, workers, found)
+	}), api.OK
+}
+
+// faultOfParts: what is wrong with a formula, or with how many of its variables part the assignments.
+func faultOfParts(f api.Formula, k int) api.Errno {
+	if e, _ := faults.Of(f); e != api.OK {
+		return e
+	}
+	if k < 0 || k > api.MaxSplit || k > f.Vars {
+		return api.ErrArg
+	}
+	return api.OK
+}
+
+// answer makes an answer out of a search, which tells its lemmas, and then an assignment, if there is one.
+func answer(run func(found func(lemma literals.Set)) (literals.Set, bool)) api.Answer {
+	var proof [][]int
+	found := func(lemma literals.Set) { proof = append(proof, lemma.List()) }
+	if truth, sat := run(found); sat {
+		return api.Answer{Sat: true, Model: truth.List()}
+	}
+	return api.Answer{Proof: proof}
 }

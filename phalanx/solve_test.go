@@ -46,24 +46,29 @@ func plainCount(f api.Formula) int {
 	return count
 }
 
-// holdSolve tells whether Solve finds an assignment; what it answers must be as P8 says.
-func holdSolve(t *testing.T, f api.Formula) bool {
+// holdAnswer tells whether an assignment was found; what is answered must be as P8 says.
+func holdAnswer(t *testing.T, call string, f api.Formula, a api.Answer, e api.Errno) bool {
 	t.Helper()
-	a, e := Solve(f)
 	if e != api.OK {
-		t.Fatalf("P8: Solve(%v): error %d", f, e)
+		t.Fatalf("%s(%v): error %d", call, f, e)
 	}
 	if a.Sat {
 		if !makesTrue(f, a.Model) || len(a.Proof) != 0 {
-			t.Fatalf("P8: Solve(%v): the assignment %v, the proof %v", f, a.Model, a.Proof)
+			t.Fatalf("%s(%v): the assignment %v, the proof %v", call, f, a.Model, a.Proof)
 		}
 		return true
 	}
 	n, e := Check(f, a.Proof)
 	if e != api.OK || n != len(a.Proof) || len(a.Proof[n-1]) != 0 || len(a.Model) != 0 {
-		t.Fatalf("P8: Solve(%v): of %d steps of the proof %d are right, error %d; the assignment %v", f, len(a.Proof), n, e, a.Model)
+		t.Fatalf("%s(%v): of %d steps of the proof %d are right, error %d; the assignment %v", call, f, len(a.Proof), n, e, a.Model)
 	}
 	return false
+}
+
+func holdSolve(t *testing.T, f api.Formula) bool {
+	t.Helper()
+	a, e := Solve(f)
+	return holdAnswer(t, "P8: Solve", f, a, e)
 }
 
 // holdSmallSolve asks also what takes long at great formulas: all assignments, and the plain way to check a proof.
@@ -145,43 +150,47 @@ func TestP8Examples(t *testing.T) {
 	}
 }
 
-func TestP8Edges(t *testing.T) {
+type known struct {
+	f   api.Formula
+	sat bool
+}
+
+func edges() []known {
 	long, mixed := repeated(20, 20), append(repeated(20, 19), -20)
 	var full []int
 	for v := 1; v <= api.MaxVars; v++ {
 		full = append(full, -v)
 	}
-	for i, c := range []struct {
-		vars    int
-		clauses [][]int
-		sat     bool
-	}{
-		{0, nil, true},
-		{0, [][]int{{}}, false},
-		{0, make([][]int, 200), false},
-		{20, nil, true},
-		{20, [][]int{{}}, false},
-		{20, [][]int{{1}, nil, {2}}, false},
-		{1, [][]int{{1}}, true},
-		{1, [][]int{{-1, -1, -1}}, true},
-		{1, [][]int{{1, 1}, {-1, -1, -1}}, false},
-		{1, [][]int{{1, -1}}, true},
-		{1, [][]int{{1, -1}, {-1}, {-1, 1, -1}}, true},
-		{1, [][]int{{1, -1}, {-1}, {1}}, false},
-		{3, [][]int{{2, -2, 3}, {3, 3, 1}, {-3}, {-1, -1, 2}}, true},
-		{3, [][]int{{2, -2, 3}, {3, 3, 1}, {-3}, {-1, -1, 2}, {-2, 3}}, false},
+	return []known{
+		{api.Formula{Vars: 0, Clauses: nil}, true},
+		{api.Formula{Vars: 0, Clauses: [][]int{{}}}, false},
+		{api.Formula{Vars: 0, Clauses: make([][]int, 200)}, false},
+		{api.Formula{Vars: 20, Clauses: nil}, true},
+		{api.Formula{Vars: 20, Clauses: [][]int{{}}}, false},
+		{api.Formula{Vars: 20, Clauses: [][]int{{1}, nil, {2}}}, false},
+		{api.Formula{Vars: 1, Clauses: [][]int{{1}}}, true},
+		{api.Formula{Vars: 1, Clauses: [][]int{{-1, -1, -1}}}, true},
+		{api.Formula{Vars: 1, Clauses: [][]int{{1, 1}, {-1, -1, -1}}}, false},
+		{api.Formula{Vars: 1, Clauses: [][]int{{1, -1}}}, true},
+		{api.Formula{Vars: 1, Clauses: [][]int{{1, -1}, {-1}, {-1, 1, -1}}}, true},
+		{api.Formula{Vars: 1, Clauses: [][]int{{1, -1}, {-1}, {1}}}, false},
+		{api.Formula{Vars: 3, Clauses: [][]int{{2, -2, 3}, {3, 3, 1}, {-3}, {-1, -1, 2}}}, true},
+		{api.Formula{Vars: 3, Clauses: [][]int{{2, -2, 3}, {3, 3, 1}, {-3}, {-1, -1, 2}, {-2, 3}}}, false},
 		// Variables that stand in no clause have a literal that is true, too.
-		{20, [][]int{{-7}}, true},
-		{20, [][]int{{-7}, {7}}, false},
-		{20, [][]int{long, mixed, full}, true},
-		{20, [][]int{long, repeated(-20, 20)}, false},
-		{20, slices.Repeat([][]int{mixed}, 200), true},
-		{20, slices.Repeat([][]int{full}, 200), true},
-		{20, append(slices.Repeat([][]int{full, mixed}, 99), []int{5}, []int{-5}), false},
-	} {
-		f := api.Formula{Vars: c.vars, Clauses: c.clauses}
-		if sat := holdSolve(t, f); sat != c.sat {
-			t.Errorf("P8: case %d: Solve(%.80v) answers %v, want %v", i, f, sat, c.sat)
+		{api.Formula{Vars: 20, Clauses: [][]int{{-7}}}, true},
+		{api.Formula{Vars: 20, Clauses: [][]int{{-7}, {7}}}, false},
+		{api.Formula{Vars: 20, Clauses: [][]int{long, mixed, full}}, true},
+		{api.Formula{Vars: 20, Clauses: [][]int{long, repeated(-20, 20)}}, false},
+		{api.Formula{Vars: 20, Clauses: slices.Repeat([][]int{mixed}, 200)}, true},
+		{api.Formula{Vars: 20, Clauses: slices.Repeat([][]int{full}, 200)}, true},
+		{api.Formula{Vars: 20, Clauses: append(slices.Repeat([][]int{full, mixed}, 99), []int{5}, []int{-5})}, false},
+	}
+}
+
+func TestP8Edges(t *testing.T) {
+	for i, c := range edges() {
+		if sat := holdSolve(t, c.f); sat != c.sat {
+			t.Errorf("P8: case %d: Solve(%.80v) answers %v, want %v", i, c.f, sat, c.sat)
 		}
 	}
 }
@@ -261,11 +270,8 @@ func TestP8AtTheLimits(t *testing.T) {
 	}
 }
 
-func TestP8HardFormulas(t *testing.T) {
-	for i, c := range []struct {
-		f   api.Formula
-		sat bool
-	}{
+func hardFormulas() []known {
+	return []known{
 		{pigeons(4, 3), false}, {pigeons(5, 4), false}, {pigeons(10, 2), false}, {pigeons(19, 1), false}, {pigeons(2, 1), false},
 		{pigeons(4, 5), true}, {pigeons(4, 4), true}, {pigeons(1, 20), true},
 		{circle(20, 8, 1), false}, {circle(20, 8, 2), true},
@@ -274,7 +280,11 @@ func TestP8HardFormulas(t *testing.T) {
 		{api.Formula{Vars: 20, Clauses: allSigns(1, 7)}, false},
 		{api.Formula{Vars: 20, Clauses: allSigns(14, 20)}, false},
 		{api.Formula{Vars: 20, Clauses: allSigns(14, 20)[1:]}, true},
-	} {
+	}
+}
+
+func TestP8HardFormulas(t *testing.T) {
+	for i, c := range hardFormulas() {
 		if sat := holdSolve(t, c.f); sat != c.sat {
 			t.Errorf("P8: hard formula %d: Solve answers %v, want %v", i, sat, c.sat)
 		}

@@ -9,7 +9,7 @@ import (
 	"phalanx/weights"
 )
 
-// pick is a literal that was made true: by a clause of which all the others are false, or, without one, by choice.
+// pick is a literal that was made true: by a clause of which all the others are false, or, without one, because it was given or by choice.
 type pick struct {
 	literal, clause literals.Set
 	level           int // how many choices there were by then
@@ -23,14 +23,14 @@ type search struct {
 	level   int
 }
 
-// Run looks for an assignment that makes a formula without a fault true: its literals, and whether there is one. It calls found with each lemma that it comes upon, which follows from the clauses and the lemmas ahead of it. If there is no assignment, the last lemma is the one without literals.
-func Run(f api.Formula, found func(lemma literals.Set)) (literals.Set, bool) {
-	s := &search{clauses: follow.Of(f), choices: choices(f)}
+// Run looks for an assignment that makes a formula without a fault true, among those with the given literals (of each variable one at most): its literals, and whether there is one. It calls found with each lemma that it comes upon, which follows from the clauses and the lemmas ahead of it, whatever was given. If there is no assignment, the last lemma has opposites of given literals alone: nothing given, no literals.
+func Run(f api.Formula, given literals.Set, found func(lemma literals.Set)) (literals.Set, bool) {
+	s := start(f, given)
 	for {
 		lemma, refuted := s.advance()
 		if refuted {
 			found(lemma)
-			if lemma == 0 {
+			if lemma.Within(given.Opposites()) {
 				return 0, false
 			}
 			s.back(lemma)
@@ -39,6 +39,14 @@ func Run(f api.Formula, found func(lemma literals.Set)) (literals.Set, bool) {
 			return s.truth, true
 		}
 	}
+}
+
+func start(f api.Formula, given literals.Set) *search {
+	s := &search{clauses: follow.Of(f), choices: choices(f)}
+	for _, literal := range given.List() {
+		s.put(literals.Of([]int{literal}), 0)
+	}
+	return s
 }
 
 // choices: of each variable the literal that weighs more, the heaviest variable first.
@@ -78,13 +86,13 @@ func (s *search) choose() bool {
 	return false
 }
 
-// lemma makes, out of a clause that is false, one that would have kept the last choice from being made: the literals in it are replaced by the others of the clauses that made them false, until one of the last level is left, and none that was false ahead of all choices.
+// lemma makes, out of a clause that is false, one that would have kept the last choice from being made: the literals in it are replaced by the others of the clauses that made them false, until one of the last level is left, and of those that were false ahead of all choices none but opposites of given ones.
 func (s *search) lemma(clause literals.Set) literals.Set {
 	last := s.falseAt(s.level)
 	for p := range s.picks.Down() {
 		opposite := p.literal.Opposites()
 		replaced := p.level == 0 || p.level == s.level && !(clause&last).Single()
-		if replaced && opposite.Within(clause) {
+		if replaced && p.clause != 0 && opposite.Within(clause) {
 			clause = clause&^opposite | p.clause&^p.literal
 		}
 	}

@@ -22,31 +22,63 @@ func someFormula(source *rand.Rand) api.Formula {
 	return f
 }
 
-// Also of a formula that can be true each lemma follows, from it and the lemmas ahead; behind the one without literals there is none.
+// someGiven: literals of some variables, none of any twice.
+func someGiven(source *rand.Rand, vars, number int) []int {
+	given := source.Perm(vars)[:min(number, vars)]
+	for i := range given {
+		given[i] = (given[i] + 1) * (1 - 2*source.IntN(2))
+	}
+	return given
+}
+
+// Also of a formula that can be true each lemma follows, from it and the lemmas ahead, whatever is given; behind the one that forbids what is given there is none.
 func TestLemmasFollow(t *testing.T) {
 	source := rand.New(rand.NewPCG(1, 2))
 	lemmas := map[bool]int{}
-	for range 1000 {
+	for i := range 4000 {
 		f := someFormula(source)
-		known, number, last := follow.Of(f), 0, literals.Set(1)
+		given := literals.Of(someGiven(source, f.Vars, i%4*2))
+		known, number, ended := follow.Of(f), 0, false
 		found := func(lemma literals.Set) {
 			number++
 			refuted := false
 			known.From(lemma.Opposites(), func(_, _ literals.Set) {}, func(literals.Set) { refuted = true })
-			if !refuted || last == 0 || lemma.Clash() != 0 {
-				t.Fatalf("lemma %v of %v", lemma.List(), f)
+			if !refuted || ended || lemma.Clash() != 0 {
+				t.Fatalf("given %v: lemma %v of %v", given.List(), lemma.List(), f)
 			}
 			known.Add(lemma)
-			last = lemma
+			ended = lemma.Within(given.Opposites())
 		}
-		truth, sat := Run(f, found)
+		truth, sat := Run(f, given, found)
 		lemmas[sat] += number
-		if sat == (last == 0) || sat != (truth != 0) {
-			t.Fatalf("of %v the answer is %v, the last lemma %v, true are %v", f, sat, last.List(), truth.List())
+		if sat == ended || sat != (truth != 0) || sat && !given.Within(truth) {
+			t.Fatalf("given %v: of %v the answer is %v, true are %v", given.List(), f, sat, truth.List())
 		}
 	}
-	if lemmas[true] < 400 || lemmas[false] < 400 {
+	if lemmas[true] < 1000 || lemmas[false] < 1000 {
 		t.Errorf("only %d and %d lemmas: these say too little", lemmas[true], lemmas[false])
+	}
+}
+
+// To be given a literal is as good as to have it for a clause.
+func TestGivenIsAsGoodAsClauses(t *testing.T) {
+	source := rand.New(rand.NewPCG(3, 4))
+	count := map[bool]int{}
+	ignore := func(literals.Set) {}
+	for i := range 1000 {
+		f := someFormula(source)
+		given := someGiven(source, f.Vars, i%6)
+		_, sat := Run(f, literals.Of(given), ignore)
+		for _, literal := range given {
+			f.Clauses = append(f.Clauses, []int{literal})
+		}
+		if _, want := Run(f, 0, ignore); sat != want {
+			t.Fatalf("given %v: of %v the answer is %v, want %v", given, f, sat, want)
+		}
+		count[sat]++
+	}
+	if count[true] < 100 || count[false] < 100 {
+		t.Errorf("%v: these say too little", count)
 	}
 }
 
@@ -70,7 +102,7 @@ func TestLemmasLeaveOutOtherChoices(t *testing.T) {
 		}
 	}
 	number := 0
-	if _, sat := Run(f, func(literals.Set) { number++ }); sat || number > 8 {
+	if _, sat := Run(f, 0, func(literals.Set) { number++ }); sat || number > 8 {
 		t.Errorf("it can be true: %v; %d lemmas", sat, number)
 	}
 }
@@ -81,7 +113,7 @@ func TestLemmaHasNothingBesideTheConflict(t *testing.T) {
 	f.Clauses = append(f.Clauses, slices.Repeat([][]int{{1, 5}}, 6)...)
 	f.Clauses = append(f.Clauses, slices.Repeat([][]int{{2, 5}}, 4)...)
 	var lemmas []literals.Set
-	Run(f, func(lemma literals.Set) { lemmas = append(lemmas, lemma) })
+	Run(f, 0, func(lemma literals.Set) { lemmas = append(lemmas, lemma) })
 	if !slices.Equal(lemmas, []literals.Set{literals.Of([]int{-2})}) {
 		t.Errorf("the lemmas are %v", lemmas)
 	}
